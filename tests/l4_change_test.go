@@ -367,6 +367,15 @@ func TestClashAtTheTopAndInBothSubtrees(t *testing.T) {
 	}
 }
 
+// greaterSide is the greater of the two subtrees of the tree of the pairs from..to.
+func greaterSide(ps []impl.Pair, from int, to int) (int, int) {
+	top := from + topOf(ps[from:to])
+	if top-from >= to-top-1 {
+		return from, top
+	}
+	return top + 1, to
+}
+
 // A value deep down makes all encodings above it differ, unless its own hash stays.
 func TestClashFartherDown(t *testing.T) {
 	ps := numbered(9)
@@ -375,14 +384,7 @@ func TestClashFartherDown(t *testing.T) {
 		wantClash(t, "the value at "+strconv.Itoa(at), ps, otherVal(ps, at, 1), 1)
 	}
 	for _, w := range []int{1, 2} {
-		from, to := 0, len(ps)
-		for to-from > 1 {
-			top := from + topOf(ps[from:to])
-			if top-from >= to-top-1 {
-				to = top
-			} else {
-				from = top + 1
-			}
+		for from, to := greaterSide(ps, 0, len(ps)); to-from > 0; from, to = greaterSide(ps, from, to) {
 			wantClash(t, "a subtree", ps, twinMaps(ps, from, to, from+topOf(ps[from:to]), w), w)
 		}
 	}
