@@ -71,11 +71,15 @@ type commitOf struct {
 }
 
 func textOfCommit(version int, c commitOf) string {
+	return textOfNodes(c.encs) + documentCommitRecord(version, c.root)
+}
+
+func textOfNodes(encs []string) string {
 	out := ""
-	for _, enc := range c.encs {
+	for _, enc := range encs {
 		out += documentNodeRecord(enc)
 	}
-	return out + documentCommitRecord(version, c.root)
+	return out
 }
 
 // logOf is the image of the commits, with the place at which each ends.
